@@ -20,8 +20,8 @@ func (s *Solver) take(c []api.Lit) {
 	}
 	second := 0 // the level from which on the clause makes its first literal true
 	if len(c) > 1 {
-		s.watch(c[0], index)
-		s.watch(c[1], index)
+		s.watch(c[0], watcher{c[1], index})
+		s.watch(c[1], watcher{c[0], index})
 		if s.value(c[1]) >= 0 {
 			return
 		}
@@ -73,8 +73,14 @@ func (s *Solver) clash(index, first, second int) {
 	}
 }
 
-func (s *Solver) watch(l api.Lit, index int) {
-	s.watched[place(l)] = append(s.watched[place(l)], index)
+// watcher is a clause that watches a literal, and another literal of it: while that one is true, the clause need not be looked at.
+type watcher struct {
+	other api.Lit
+	index int
+}
+
+func (s *Solver) watch(l api.Lit, w watcher) {
+	s.watched[place(l)] = append(s.watched[place(l)], w)
 }
 
 // propagate makes true what follows from the clauses; it is a clause whose literals are all false, or none.
@@ -94,27 +100,32 @@ func (s *Solver) visit(gone api.Lit) int {
 	list := s.watched[place(gone)]
 	kept, conflict := list[:0], none
 watching:
-	for i, index := range list {
-		c := s.clauses[index]
+	for i, w := range list {
+		if s.value(w.other) > 0 {
+			kept = append(kept, w)
+			continue
+		}
+		c := s.clauses[w.index]
 		if c[0] == gone {
 			c[0], c[1] = c[1], c[0]
 		}
+		w.other = c[0]
 		if s.value(c[0]) > 0 {
-			kept = append(kept, index)
+			kept = append(kept, w)
 			continue
 		}
 		for k := 2; k < len(c); k++ {
 			if s.value(c[k]) >= 0 {
 				c[1], c[k] = c[k], c[1]
-				s.watch(c[1], index)
+				s.watch(c[1], w)
 				continue watching
 			}
 		}
-		kept = append(kept, index)
+		kept = append(kept, w)
 		if s.value(c[0]) < 0 {
-			conflict = index
+			conflict = w.index
 		} else {
-			s.set(c[0], index)
+			s.set(c[0], w.index)
 		}
 		if conflict != none || s.state != running {
 			kept = append(kept, list[i+1:]...)

@@ -41,7 +41,7 @@ type query struct {
 	levels   []int
 	reasons  []int       // of each atom, the clause that made it so
 	clauses  [][]api.Lit // of this search; the first two literals are watched
-	watched  [][]int     // of each literal
+	watched  [][]watcher // of each literal
 	order    *heap.Heap
 	bump     int64
 	phases   []int8 // the last value of each atom
