@@ -40,6 +40,13 @@ func (q *queue) Pop() any {
 	return last
 }
 
+// fall is what is known of a variable while values are lowered.
+type fall struct {
+	by    api.Int // by how much it is to be lowered
+	why   arc     // the arc that lowers it most
+	final bool
+}
+
 // lower lowers values until an arc that is new is satisfied, too. If that can't be, it changes nothing and returns a certificate, which begins with the new literal.
 func (n *Net) lower(first arc) []api.Lit {
 	if !exceeds(n.values, first) {
@@ -48,33 +55,40 @@ func (n *Net) lower(first arc) []api.Lit {
 	if first.X == first.Y {
 		return []api.Lit{first.lit}
 	}
-	tentative := slices.Clone(n.values)
+	tentative, falls := slices.Clone(n.values), n.falls
+	var touched []int
+	defer func() {
+		for _, x := range touched {
+			falls[x] = fall{}
+		}
+	}()
 	var old []change
 	var waiting queue
-	final := map[int]arc{} // of each variable that is lowered, the arc that lowers it last
-	by := map[int]api.Int{}
 	consider := func(a arc) {
-		if _, done := final[a.X]; done && by[a.X] == (api.Int{}) {
+		f := &falls[a.X]
+		if f.final {
 			return
 		}
 		needed := digits.Minus(digits.Plus(tentative[a.Y], digits.Of(a.C)), tentative[a.X])
-		if digits.Less(needed, by[a.X]) {
-			by[a.X], final[a.X] = needed, a
+		if digits.Less(needed, f.by) {
+			f.by, f.why = needed, a
+			touched = append(touched, a.X)
 			heap.Push(&waiting, change{a.X, needed})
 		}
 	}
 	consider(first)
 	for len(waiting) > 0 {
 		c, _ := heap.Pop(&waiting).(change)
-		if by[c.x] != c.by {
-			continue // it was lowered further meanwhile, or is final
+		f := &falls[c.x]
+		if f.final || f.by != c.by {
+			continue // it was lowered further meanwhile
 		}
 		if c.x == first.Y {
-			return cycle(first, final)
+			return cycle(first, falls)
 		}
 		old = append(old, change{c.x, tentative[c.x]})
 		tentative[c.x] = digits.Plus(tentative[c.x], c.by)
-		by[c.x] = api.Int{}
+		f.final = true
 		for _, a := range n.arcs[c.x] {
 			consider(a)
 		}
@@ -94,10 +108,10 @@ func exceeds(values []api.Int, a arc) bool {
 }
 
 // cycle is the literals from an arc back to it, each by the arc that lowered its variable.
-func cycle(first arc, lowered map[int]arc) []api.Lit {
+func cycle(first arc, falls []fall) []api.Lit {
 	certificate := []api.Lit{first.lit}
-	for x := first.Y; x != first.X; x = lowered[x].Y {
-		certificate = append(certificate, lowered[x].lit)
+	for x := first.Y; x != first.X; x = falls[x].why.Y {
+		certificate = append(certificate, falls[x].why.lit)
 	}
 	return certificate
 }

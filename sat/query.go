@@ -18,6 +18,9 @@ const (
 	stopped   // the theory can't go on
 )
 
+// fewLessons is how many conflicts are too few to give up levels for: to make literals true again, and to tell the theory, costs more than a conflict.
+const fewLessons = 32
+
 // none is the reason of a literal that was decided or assumed.
 const none = -1
 
@@ -48,6 +51,7 @@ type query struct {
 	decided  []bool
 	restarts int
 	clashes  int // conflicts since the last restart
+	lessons  int // conflicts since the last restart that closed levels
 }
 
 func newQuery(assume []api.Lit, t api.Theory, seeds []uint64, budget int64) query {
@@ -60,22 +64,26 @@ func newQuery(assume []api.Lit, t api.Theory, seeds []uint64, budget int64) quer
 
 // extend makes room for all atoms.
 func (s *Solver) extend() {
-	for len(s.values) <= s.atoms {
-		s.values = append(s.values, 0)
-		s.levels = append(s.levels, 0)
-		s.reasons = append(s.reasons, none)
-		s.phases = append(s.phases, 0)
-		s.decided = append(s.decided, false)
-		s.watched = append(s.watched, nil, nil)
-	}
 	if s.order.Size() < s.atoms {
 		s.widen()
 	}
-	for atom := 1; atom <= s.atoms; atom++ {
-		if s.values[atom] == 0 {
-			s.order.Push(atom - 1)
-		}
+	if len(s.values) == 0 {
+		s.grow() // there is no atom 0
 	}
+	for len(s.values) <= s.atoms {
+		s.order.Push(len(s.values) - 1)
+		s.grow()
+	}
+}
+
+// grow makes room for one more atom.
+func (s *Solver) grow() {
+	s.values = append(s.values, 0)
+	s.levels = append(s.levels, 0)
+	s.reasons = append(s.reasons, none)
+	s.phases = append(s.phases, 0)
+	s.decided = append(s.decided, false)
+	s.watched = append(s.watched, nil, nil)
 }
 
 // widen makes the order anew for more atoms.
@@ -84,6 +92,9 @@ func (s *Solver) widen() {
 	s.order = heap.New(min(2*s.atoms, api.MaxSearch))
 	for i := range old.Size() {
 		s.order.Raise(i, old.Weight(i))
+		if old.Has(i) {
+			s.order.Push(i)
+		}
 	}
 }
 

@@ -177,14 +177,19 @@ func (s *Solver) divide(split api.Split) {
 	}
 }
 
-// restart begins anew after so many conflicts as the seed says. Levels whose decisions would be made again are kept.
+// restart begins anew after so many conflicts as the seed says. Levels whose decisions would be made again are kept, and all of them are unless there was enough to learn from.
 func (s *Solver) restart() {
 	s.clashes++
+	s.lessons++
 	limit := s.seeds[s.restarts%len(s.seeds)]%100 + 1
 	if uint64(s.clashes) < limit || s.state != running {
 		return
 	}
 	s.restarts, s.clashes = s.restarts+1, 0
+	if s.lessons < fewLessons {
+		return
+	}
+	s.lessons = 0
 	next := s.pick()
 	level := min(len(s.assumed), s.row.Level())
 	for level < s.row.Level() && next > 0 {
