@@ -84,7 +84,7 @@ func (t *Theory) argumentPair(full api.Full) (int, int, bool) {
 		for k, b := range x.Args {
 			a := t.vertices[v].Args[k]
 			if t.vertices[a].Sort == api.Int1 && full.Class[a] != full.Class[b] {
-				return a, b, true
+				return min(a, b), max(a, b), true
 			}
 		}
 	}

@@ -106,6 +106,9 @@ watching:
 			continue
 		}
 		c := s.clauses[w.index]
+		if c == nil {
+			continue // it is not watched any more
+		}
 		if c[0] == gone {
 			c[0], c[1] = c[1], c[0]
 		}

@@ -27,7 +27,9 @@ func (s *Solver) learn(conflict int) {
 	learned, _ = clauses.Normal(learned)
 	s.steps = append(s.steps, api.Step{Kind: api.StepClause, Lits: slices.Clone(learned)})
 	s.store(learned)
+	index, spread := len(s.clauses), s.spreadOf(learned)
 	s.take(learned)
+	s.remember(index, spread)
 	s.decay()
 }
 

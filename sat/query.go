@@ -29,33 +29,35 @@ type trail struct{ heap.Trail[api.Lit] }
 
 // query is the data of one search.
 type query struct {
-	state    state
-	theory   api.Theory
-	assumed  []api.Lit
-	seeds    []uint64
-	budget   int64
-	used     int64
-	core     []api.Lit
-	row      trail
-	starts   []int // of each level, how many literals came before it
-	visited  int   // how many literals of the row had their clauses looked at
-	told     int   // how many the theory knows
-	values   []int8
-	levels   []int
-	reasons  []int       // of each atom, the clause that made it so
-	clauses  [][]api.Lit // of this search; the first two literals are watched
-	watched  [][]watcher // of each literal
-	order    *heap.Heap
-	bump     int64
-	phases   []int8 // the last value of each atom
-	decided  []bool
-	restarts int
-	clashes  int // conflicts since the last restart
-	lessons  int // conflicts since the last restart that closed levels
+	state       state
+	theory      api.Theory
+	assumed     []api.Lit
+	seeds       []uint64
+	budget      int64
+	used        int64
+	core        []api.Lit
+	row         trail
+	starts      []int // of each level, how many literals came before it
+	visited     int   // how many literals of the row had their clauses looked at
+	told        int   // how many the theory knows
+	values      []int8
+	levels      []int
+	reasons     []int       // of each atom, the clause that made it so
+	clauses     [][]api.Lit // of this search; the first two literals are watched
+	watched     [][]watcher // of each literal
+	learned     []lesson
+	mostLearned int
+	order       *heap.Heap
+	bump        int64
+	phases      []int8 // the last value of each atom
+	decided     []bool
+	restarts    int
+	clashes     int // conflicts since the last restart
+	lessons     int // conflicts since the last restart that closed levels
 }
 
 func newQuery(assume []api.Lit, t api.Theory, seeds []uint64, budget int64) query {
-	q := query{theory: t, assumed: slices.Clone(assume), seeds: slices.Clone(seeds), budget: max(budget, 0), bump: firstBump}
+	q := query{theory: t, assumed: slices.Clone(assume), seeds: slices.Clone(seeds), budget: max(budget, 0), bump: firstBump, mostLearned: firstReduction}
 	if len(q.seeds) == 0 {
 		q.seeds = []uint64{0}
 	}
