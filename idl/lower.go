@@ -1,7 +1,6 @@
 package idl
 
 import (
-	"container/heap"
 	"slices"
 
 	"jurist/api"
@@ -14,30 +13,39 @@ type change struct {
 	by api.Int
 }
 
-// queue has changes, the greatest ones first.
+// queue has changes, each ahead of those at twice its place and one or two more; the one that lowers most comes first.
 type queue []change
 
-func (q queue) Len() int { return len(q) }
+func (q queue) ahead(i, j int) bool { return digits.Less(q[i].by, q[j].by) }
 
-func (q queue) Less(i, j int) bool {
-	if q[i].by == q[j].by {
-		return q[i].x < q[j].x
-	}
-	return digits.Less(q[i].by, q[j].by)
-}
-
-func (q queue) Swap(i, j int) { q[i], q[j] = q[j], q[i] }
-
-func (q *queue) Push(x any) {
-	if c, ok := x.(change); ok {
-		*q = append(*q, c)
+func (q *queue) push(c change) {
+	*q = append(*q, c)
+	l := *q
+	for i := len(l) - 1; i > 0 && l.ahead(i, (i-1)/2); i = (i - 1) / 2 {
+		l[i], l[(i-1)/2] = l[(i-1)/2], l[i]
 	}
 }
 
-func (q *queue) Pop() any {
-	last := (*q)[len(*q)-1]
-	*q = (*q)[:len(*q)-1]
-	return last
+func (q *queue) pop() change {
+	l := *q
+	first, last := l[0], len(l)-1
+	l[0] = l[last]
+	l = l[:last]
+	for i := 0; ; {
+		best := i
+		for child := 2*i + 1; child <= 2*i+2 && child < last; child++ {
+			if l.ahead(child, best) {
+				best = child
+			}
+		}
+		if best == i {
+			break
+		}
+		l[i], l[best] = l[best], l[i]
+		i = best
+	}
+	*q = l
+	return first
 }
 
 // fall is what is known of a variable while values are lowered.
@@ -73,12 +81,12 @@ func (n *Net) lower(first arc) []api.Lit {
 		if digits.Less(needed, f.by) {
 			f.by, f.why = needed, a
 			touched = append(touched, a.X)
-			heap.Push(&waiting, change{a.X, needed})
+			waiting.push(change{a.X, needed})
 		}
 	}
 	consider(first)
 	for len(waiting) > 0 {
-		c, _ := heap.Pop(&waiting).(change)
+		c := waiting.pop()
 		f := &falls[c.x]
 		if f.final || f.by != c.by {
 			continue // it was lowered further meanwhile

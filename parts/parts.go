@@ -3,6 +3,7 @@ package parts
 
 import (
 	"iter"
+	"slices"
 
 	"jurist/api"
 	"jurist/terms"
@@ -12,37 +13,31 @@ import (
 func Of(s *terms.Store, l ...api.Term) iter.Seq2[api.Term, api.Node] {
 	return func(yield func(api.Term, api.Node) bool) {
 		nodes := reached(s, l)
-		for t, n := range nodes {
-			if n.Op != 0 && !yield(api.Term(t), n) {
+		order := make([]api.Term, 0, len(nodes))
+		for t := range nodes {
+			order = append(order, t)
+		}
+		slices.Sort(order)
+		for _, t := range order {
+			if !yield(t, nodes[t]) {
 				return
 			}
 		}
 	}
 }
 
-// reached is the nodes of the parts, at their numbers; other numbers have a node without an operator.
-func reached(s *terms.Store, l []api.Term) []api.Node {
-	most := -1
-	for _, t := range l {
-		if Has(s, t) {
-			most = max(most, int(t))
-		}
-	}
-	nodes := make([]api.Node, most+1)
-	wanted := make([]bool, most+1)
-	for _, t := range l {
-		if Has(s, t) {
-			wanted[t] = true
-		}
-	}
-	for t := most; t >= 0; t-- {
-		if !wanted[t] {
+// reached is the nodes of the parts.
+func reached(s *terms.Store, l []api.Term) map[api.Term]api.Node {
+	nodes := map[api.Term]api.Node{}
+	left := slices.Clone(l)
+	for len(left) > 0 {
+		t := left[len(left)-1]
+		left = left[:len(left)-1]
+		if _, known := nodes[t]; known || !Has(s, t) {
 			continue
 		}
-		nodes[t], _ = s.Node(api.Term(t))
-		for _, a := range nodes[t].Args {
-			wanted[a] = true
-		}
+		nodes[t], _ = s.Node(t)
+		left = append(left, nodes[t].Args...)
 	}
 	return nodes
 }
