@@ -23,7 +23,8 @@ type mock struct {
 	told    map[string]bool
 	ok      lits // the assignment at FinalOK
 	calls   int64
-	seen    []lits // all clauses that were returned
+	seen    []lits   // the clauses of all reasons
+	pairs   [][]lits // those of all splits
 }
 
 func (m *mock) Push() { m.levels = append(m.levels, nil) }
@@ -98,7 +99,7 @@ func (m *mock) Final() (api.Final, api.Reason, api.Split) {
 		split := m.splits[0]
 		m.splits = m.splits[1:]
 		m.atoms += split.Atoms
-		m.seen = append(m.seen, split.Clauses...)
+		m.pairs = append(m.pairs, split.Clauses)
 		return api.FinalSplit, api.Reason{}, split
 	}
 	m.ok = m.all()
@@ -160,7 +161,7 @@ func TestWithTheory(t *testing.T) {
 // checkSteps replays the steps: each clause of the theory when its step comes, each learned clause by unit propagation.
 func checkSteps(t *testing.T, l []lits, m *mock, o api.Outcome) {
 	t.Helper()
-	db, next := slices.Clone(l), 0
+	db, next, pair := slices.Clone(l), 0, 0
 	for _, x := range o.Steps {
 		switch x.Kind {
 		case api.StepClause:
@@ -174,12 +175,13 @@ func checkSteps(t *testing.T, l []lits, m *mock, o api.Outcome) {
 			}
 			db, next = append(db, x.Lits), next+1
 		case api.StepPair:
-			for next < len(m.seen) && !slices.ContainsFunc(o.Steps, func(y api.Step) bool { return slices.Equal(y.Lits, m.seen[next]) && y.Kind == api.StepCycle }) {
-				db, next = append(db, m.seen[next]), next+1
-			}
+			db, pair = append(db, m.pairs[pair]...), pair+1
 		}
 	}
-	if ok, _ := rup.Follows(slices.Concat(db, m.seen, units(o.Core)), nil); !ok {
+	if next != len(m.seen) || pair != len(m.pairs) {
+		t.Fatal("steps are missing", next, pair)
+	}
+	if ok, _ := rup.Follows(append(db, units(o.Core)...), nil); !ok {
 		t.Fatal("the core", o.Core)
 	}
 }
