@@ -216,6 +216,33 @@ func TestClassPair(t *testing.T) {
 	}
 }
 
+func TestEqualByChance(t *testing.T) {
+	// Nothing says that x is y, so that f(x) and f(y) may differ without a pair.
+	for _, more := range [][]api.Atom{nil, {le(1, 0, 3), le(0, 1, 0), le(2, 0, 3), le(0, 2, 0)}, {le(2, 1, -5), le(1, 2, 99)}} {
+		p := example()
+		p.Atoms = append([]api.Atom{eq(4, 5)}, more...)
+		x, calls := theory(t, p)
+		model := lits{-1}
+		for i := range more {
+			model = append(model, api.Lit(2+i))
+		}
+		assert(t, x, model...)
+		f, _, _ := x.Final()
+		full, e := x.Full()
+		if f != api.FinalOK || e != api.OK || !correct(p, full, model) || len(*calls) != 0 {
+			t.Error("Final", f, full, *calls)
+		}
+	}
+	// Within the bounds 0 and 0 both are the same.
+	p := example()
+	p.Atoms = []api.Atom{eq(4, 5), le(1, 0, 0), le(0, 1, 0), le(2, 0, 0), le(0, 2, 0)}
+	x, _ := theory(t, p)
+	assert(t, x, -1, 2, 3, 4, 5)
+	if f, _, s := x.Final(); f != api.FinalSplit || s.Step.A != 2 || s.Step.B != 3 {
+		t.Error("Final", f, s)
+	}
+}
+
 func TestPairingsThatFail(t *testing.T) {
 	for what, pair := range map[string]func(v, w int) ([]api.Atom, [][]api.Lit, api.Errno){
 		"error":   func(v, w int) ([]api.Atom, [][]api.Lit, api.Errno) { return []api.Atom{eq(v, w)}, nil, api.ErrFull },
@@ -441,7 +468,7 @@ func TestWithTheSearch(t *testing.T) {
 			t.Fatal("unknown")
 		}
 	}
-	if answers[api.AnswerSat] < 300 || answers[api.AnswerUnsat] < 300 || pairs < 1 || splits < 20 {
+	if answers[api.AnswerSat] < 300 || answers[api.AnswerUnsat] < 300 || pairs < 1 || splits < 5 {
 		t.Error("answers", answers, pairs, splits)
 	}
 }

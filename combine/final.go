@@ -15,11 +15,7 @@ func (t *Theory) Final() (api.Final, api.Reason, api.Split) {
 	if len(t.clashes) > 0 {
 		return api.FinalConflict, copyReason(t.clashes[len(t.clashes)-1].reason), api.Split{}
 	}
-	full := t.arrangement()
-	v, w, found := t.classPair(full)
-	if !found {
-		v, w, found = t.argumentPair(full)
-	}
+	full, v, w, found := t.arrange()
 	if !found {
 		t.full, t.accepted = full, true
 		return api.FinalOK, api.Reason{}, api.Split{}
@@ -29,6 +25,38 @@ func (t *Theory) Final() (api.Final, api.Reason, api.Split) {
 		return api.FinalStop, api.Reason{}, api.Split{}
 	}
 	return api.FinalSplit, api.Reason{}, split
+}
+
+// The gaps of the integers that are tried, if the net's own ones make arguments equal by chance: small ones for variables within narrow bounds, great ones for those with offsets.
+const (
+	smallGap = 1
+	greatGap = 1000
+)
+
+// arrange is an arrangement, or two vertices that stand against the ones that were tried.
+func (t *Theory) arrange() (full api.Full, v, w int, found bool) {
+	full = t.arrangement()
+	if v, w, found = t.classPair(full); found {
+		return full, v, w, true
+	}
+	if v, w, found = t.argumentPair(full); !found {
+		return full, 0, 0, false
+	}
+	own := full.Vars
+	for _, gap := range [...]int64{smallGap, greatGap} {
+		full.Vars = t.spread(own, gap)
+		a, b, against := t.classPair(full)
+		if !against {
+			a, b, against = t.argumentPair(full)
+		}
+		if !against {
+			return full, 0, 0, false
+		}
+		if _, known := t.known[[2]int{a, b}]; !known {
+			v, w = a, b
+		}
+	}
+	return full, v, w, true
 }
 
 // arrangement is the classes and the integers at present.
