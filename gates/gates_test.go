@@ -4,6 +4,7 @@ import (
 	"math"
 	"math/rand"
 	"reflect"
+	"slices"
 	"testing"
 
 	"jurist/api"
@@ -139,7 +140,8 @@ func TestPair(t *testing.T) {
 	if p := g.Problem(); len(p.Atoms) != atoms+4 {
 		t.Error("the problem has them", len(p.Atoms))
 	}
-	for _, c := range [][2]int{{at("x"), at("x")}, {at("x"), at("u")}, {0, 1}, {at("p"), 0}, {-1, 2}, {2, -1}, {2, 99}, {math.MaxInt, 2}} {
+	n := len(g.Problem().Vertices)
+	for _, c := range [][2]int{{at("x"), n}, {n, at("x")}, {at("x"), at("x")}, {at("x"), at("u")}, {0, 1}, {at("p"), 0}, {-1, 2}, {2, -1}, {2, 99}, {math.MaxInt, 2}} {
 		if a, cl, e := g.Pair(c[0], c[1]); a != nil || cl != nil || e != api.ErrArg {
 			t.Error("Pair", c, e)
 		}
@@ -233,6 +235,40 @@ func TestFull(t *testing.T) {
 	}
 }
 
+func TestLastAtom(t *testing.T) {
+	// Pairs of elements make one atom each, so that the last place is filled, too.
+	s := terms.New()
+	var us []api.Term
+	for i := range 380 {
+		u, _ := s.App(i, 2)
+		us = append(us, u)
+	}
+	var all []api.Term
+	for i := range 19 {
+		a, _ := s.App(1000+i, 0, us[20*i:20*i+20]...)
+		all = append(all, a)
+	}
+	g, e := New(s, all...)
+	if e != api.OK {
+		t.Fatal(e)
+	}
+	made := 1 + 19
+	for v := 2; v < 382; v++ {
+		for w := v + 1; w < 382; w++ {
+			_, _, e := g.Pair(v, w)
+			if want := made < api.MaxAtoms; want != (e == api.OK) || !want && e != api.ErrFull {
+				t.Fatal("Pair", v, w, made, e)
+			}
+			if e == api.OK {
+				made++
+			}
+		}
+	}
+	if len(g.Problem().Atoms) != api.MaxAtoms {
+		t.Error("atoms", made)
+	}
+}
+
 func TestFullAtOnce(t *testing.T) {
 	// Each Ite whose branches are new makes seven atoms: 20000 terms are too few for 65536, unless the branches are shared.
 	s := terms.New()
@@ -254,6 +290,29 @@ func TestFullAtOnce(t *testing.T) {
 	}
 	if g, e := New(s, all...); e != api.ErrFull || g != nil {
 		t.Error("too many atoms", e)
+	}
+	// As many assertions as fit, and single functions up to the last atom.
+	fit := 5000
+	for ; fit < len(all); fit += 100 {
+		if _, e := New(s, all[:fit+100]...); e != api.OK {
+			break
+		}
+	}
+	board, _ := New(s, all[:fit]...)
+	exact := slices.Clone(all[:fit])
+	for i := len(board.Problem().Atoms); i < api.MaxAtoms; i++ {
+		p, e := s.App(5000+i, 0)
+		if e != api.OK {
+			t.Fatal("a function", e)
+		}
+		exact = append(exact, p)
+	}
+	if g, e := New(s, exact...); e != api.OK || len(g.Problem().Atoms) != api.MaxAtoms {
+		t.Error("MaxAtoms atoms", e)
+	}
+	one, _ := s.App(4999, 0)
+	if _, e := New(s, append(exact, one)...); e != api.ErrFull {
+		t.Error("one atom more", e)
 	}
 	if _, e := New(s, append(all, api.Zero)...); e != api.ErrSort {
 		t.Error("ErrSort is ahead of ErrFull", e)

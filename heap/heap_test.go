@@ -149,6 +149,14 @@ func TestHeapAgainstSorting(t *testing.T) {
 				}
 			}
 		}
+		if r.Intn(10) == 0 {
+			for n := range h.All() {
+				if n != first() {
+					t.Fatal("All")
+				}
+				break
+			}
+		}
 		if n, ok := h.First(); ok && n != first() || h.Has(i) != in[i] || h.Weight(i) != weight[i] {
 			t.Fatal("state")
 		}

@@ -31,6 +31,7 @@ func TestTokens(t *testing.T) {
 		{"x |a\x7f|", []api.Token{tok(api.TokSymbol, "x", 0)}, 2, api.ErrByte},
 		{"\"a\x01", nil, 0, api.ErrByte},
 		{"\"a\x7f\"", nil, 0, api.ErrByte},
+		{"\"~ !\"|~|", []api.Token{tok(api.TokString, "~ !", 0), tok(api.TokSymbol, "~", 5)}, 8, api.OK},
 		{"\"a", nil, 0, api.ErrQuote},
 		{"\"a\"\"", nil, 0, api.ErrQuote},
 		{"||a|b c\"(|", []api.Token{tok(api.TokSymbol, "", 0), tok(api.TokSymbol, "a", 2), tok(api.TokSymbol, "b c\"(", 3)}, 10, api.OK},

@@ -34,6 +34,12 @@ func TestOf(t *testing.T) {
 	if got := all(-1, 99, api.True); !slices.Equal(got, []api.Term{api.True}) {
 		t.Error("terms that are not there", got)
 	}
+	given := []api.Term{q, not, p}
+	for range Of(s, given...) {
+	}
+	if !slices.Equal(given, []api.Term{q, not, p}) {
+		t.Error("the terms were changed", given)
+	}
 	for range Of(s, not) {
 		break
 	}

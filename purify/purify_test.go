@@ -96,6 +96,15 @@ func TestVertices(t *testing.T) {
 	}
 }
 
+func TestTruthAsArguments(t *testing.T) {
+	s, ok := terms.New(), term(t)
+	f, e := New(s, ok(s.App(0, 0, api.False, api.True)))
+	want := append(slices.Clone(first), api.Vertex{Fun: 0, Args: []int{1, 0}, Var: -1})
+	if got := f.Vertices(); e != api.OK || !slices.EqualFunc(got, want, same) {
+		t.Error("vertices", got, e)
+	}
+}
+
 func TestErrors(t *testing.T) {
 	if f, e := New(nil); f != nil || e != api.ErrNil {
 		t.Error("no store", e)

@@ -194,6 +194,41 @@ func TestWork(t *testing.T) {
 	}
 }
 
+// TestCount puts terms of all kinds into a tree that is just not too long, or one longer: layer 7 counts as layer 8 does.
+func TestCount(t *testing.T) {
+	for in, size := range map[string]int{
+		"(= x (- 5))": 4, "(<= x 5)": 3, "(<= x (- 5))": 4, "(<= (- x) 5)": 4, "(<= (- x) (- 5))": 5, "(= (+ x 2) y)": 5, "(= (+ x (- 2)) y)": 6, "(h q)": 2, "(= x 5)": 3, "(= x 0)": 3, "(= a b)": 3, "(ite q p false)": 4, "(not q)": 2,
+		"(and (h q) (h q))": 3 + 1 + 2, "(and (not (h q)) (not (h q)))": 3 + 1 + 3, "(and (= x (+ y 1)) (= x (+ y 1)) (= y (+ y 1)))": 4 + 2 + 2 + 3 + 3, "(and (h (not q)) (h (not q)) (not q))": 4 + 2 + 2 + 2,
+	} {
+		b := book(t)
+		x, e := elab.Term(b, read(t, in))
+		if e != api.OK {
+			t.Fatal(in, e)
+		}
+		var rows []api.Term
+		for k := range 2 {
+			l := []api.Term{5}
+			for i := range 1650 {
+				le, _ := b.Store.Le(3, 4, int64(-1-i-1650*k))
+				l = append(l, le)
+			}
+			row, _ := b.Store.And(l...)
+			rows = append(rows, row)
+		}
+		left := api.MaxWork - 1 - 2*(2+6*1650) - size
+		for more, want := range []api.Errno{api.OK, api.ErrLong} {
+			all, _ := b.Store.Or(append(append([]api.Term{x}, rows...), slices.Repeat([]api.Term{5}, left+more)...)...)
+			y, e := Tree(b, all)
+			if e != want {
+				t.Error("Tree", in, more, e)
+			}
+			if again, f := elab.Term(b, y); e == api.OK && (f != api.OK || again != all) {
+				t.Error("read back", in, f)
+			}
+		}
+	}
+}
+
 func TestLong(t *testing.T) {
 	b := book(t)
 	long, _ := b.Names.DeclareFun(api.Fun{Name: strings.Repeat("n", 1000)})

@@ -166,6 +166,80 @@ func TestLookups(t *testing.T) {
 	}
 }
 
+func TestCopiesGrowApart(t *testing.T) {
+	x := New()
+	for _, n := range []string{"A", "B", "C"} {
+		x.DeclareSort(n)
+		x.DeclareFun(api.Fun{Name: n})
+		x.Push()
+	}
+	y := x.Copy()
+	for _, c := range []struct {
+		t *Table
+		n string
+	}{{x, "X"}, {y, "Y"}} {
+		c.t.DeclareSort(c.n)
+		c.t.DeclareFun(api.Fun{Name: c.n})
+		c.t.Push()
+		c.t.DeclareSort(c.n + "2")
+		c.t.DeclareFun(api.Fun{Name: c.n + "2"})
+	}
+	x.Pop(2)
+	if n, _ := x.SortName(5); n != "X" {
+		t.Error("the table's names", n)
+	}
+	x.DeclareSort("Z")
+	x.DeclareFun(api.Fun{Name: "Z"})
+	x.Push()
+	if i, _ := x.Info(3); i.Name != "X" {
+		t.Error("the table's functions", i)
+	}
+	if n, _ := y.SortName(5); n != "Y" || !slices.Equal(y.Sorts(), []api.Sort{2, 3, 4, 5, 6}) || !slices.Equal(y.Funs(), []int{0, 1, 2, 3, 4}) {
+		t.Error("the copy", n, y.Sorts(), y.Funs())
+	}
+	if y.Pop(1); !slices.Equal(y.Sorts(), []api.Sort{2, 3, 4, 5}) || y.Level() != 3 {
+		t.Error("the copy's scopes", y.Sorts())
+	}
+	f := x.Funs()
+	f[0] = 9
+	if x.Funs()[0] != 0 {
+		t.Error("Funs gives out a copy")
+	}
+}
+
+func TestNumbersAtTheEdge(t *testing.T) {
+	x := New()
+	x.DeclareSort("U")
+	x.DeclareFun(api.Fun{Name: "f"})
+	if n, e := x.SortName(2); n != "U" || e != api.OK {
+		t.Error("SortName", n, e)
+	}
+	if i, e := x.Info(0); i.Name != "f" || e != api.OK {
+		t.Error("Info", i, e)
+	}
+	if _, e := x.SortName(3); e != api.ErrNone {
+		t.Error("SortName", e)
+	}
+	if _, e := x.Info(1); e != api.ErrNone {
+		t.Error("Info", e)
+	}
+	if s, e := x.Sort("f"); s != 0 || e != api.ErrNone {
+		t.Error("Sort", s, e)
+	}
+	if f, e := x.Fun("U"); f != 0 || e != api.ErrNone {
+		t.Error("Fun", f, e)
+	}
+	for _, z := range []*Table{nil, {}} {
+		a, _ := z.DeclareSort("U")
+		b, _ := z.DeclareFun(api.Fun{Name: "f"})
+		c, _ := z.Sort("U")
+		d, _ := z.Fun("f")
+		if a != 0 || b != 0 || c != 0 || d != 0 {
+			t.Error("a number beside an error", a, b, c, d)
+		}
+	}
+}
+
 func TestCopy(t *testing.T) {
 	x := New()
 	x.DeclareSort("U")

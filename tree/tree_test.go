@@ -176,6 +176,7 @@ func TestTextLimits(t *testing.T) {
 		{one(api.TokString, strings.Repeat(`"`, api.MaxScript/2)), api.ErrLong}, {one(api.TokSymbol, " "+long[3:]), api.OK}, {one(api.TokSymbol, " "+long[2:]), api.ErrLong},
 		{one(api.TokSymbol, " "+long+"\x00"), api.ErrForm}, {one(api.TokString, long+"\x00"), api.ErrForm}, {one(api.TokSymbol, "|"+long), api.ErrForm}, {listOf(one(api.TokSymbol, long)), api.ErrLong},
 		{one(api.TokSymbol, strings.Repeat(" ", 3*chunk)), api.OK},
+		{listOf(one(api.TokSymbol, long[:10]), one(api.TokSymbol, long[13:]), listOf()), api.ErrLong}, {listOf(one(api.TokSymbol, long[:10]), one(api.TokSymbol, long[16:]), listOf()), api.OK}, {listOf(one(api.TokSymbol, long[:10]), one(api.TokSymbol, long[15:]), listOf()), api.ErrLong}, {listOf(one(api.TokSymbol, long[2:])), api.OK}, {listOf(one(api.TokSymbol, long[1:])), api.ErrLong},
 	} {
 		if _, e := Text(c.x); e != c.e {
 			t.Error("Text of a long token", c.x.Tok.Kind, len(c.x.Tok.Text), e, c.e)

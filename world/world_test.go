@@ -197,6 +197,11 @@ func TestMay(t *testing.T) {
 	if !May(b.Names, w) || May(nil, w) || May(nil, api.World{}) {
 		t.Error("May")
 	}
+	b, w = setting(t)
+	w.Sizes[0].Size, w.Funs[3].Else.E, w.Funs[4].Rows[0].Args[0].E = 1, 0, 0
+	if !May(b.Names, w) {
+		t.Error("one element")
+	}
 	b.Names.Push()
 	b.Names.DeclareSort("V")
 	if May(b.Names, w) {
