@@ -102,6 +102,7 @@ func TestErrors(t *testing.T) {
 		"arity":     func(x *sorts.Table, v []api.Vertex, f *api.Full) []api.Vertex { v[4].Args = nil; return v },
 		"arg sort":  func(x *sorts.Table, v []api.Vertex, f *api.Full) []api.Vertex { v[4].Args = []int{0}; return v },
 		"result":    func(x *sorts.Table, v []api.Vertex, f *api.Full) []api.Vertex { v[4].Sort = 0; return v },
+		"first fun": func(x *sorts.Table, v []api.Vertex, f *api.Full) []api.Vertex { v[2].Args = []int{2}; return v },
 		"no fun":    func(x *sorts.Table, v []api.Vertex, f *api.Full) []api.Vertex { v[4].Fun = 3; return v },
 		"great fun": func(x *sorts.Table, v []api.Vertex, f *api.Full) []api.Vertex { v[4].Fun = 1 << 40; return v },
 		"sort": func(x *sorts.Table, v []api.Vertex, f *api.Full) []api.Vertex {

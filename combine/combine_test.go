@@ -138,6 +138,9 @@ func TestConflicts(t *testing.T) {
 	check("again", r, ok, lits{1, -4}, api.StepLinks)
 	r, ok = x.Assert(99)
 	check("a number that is no atom's", r, ok, lits{1, -4}, api.StepLinks)
+	r.Clause[0], r.Step.Links[0].Kind = 77, 0
+	r, ok = x.Assert(99)
+	check("the reason is the caller's own", r, ok, lits{1, -4}, api.StepLinks)
 	x.Pop(1)
 	assert(t, x, 5)
 	x.Push()
@@ -152,6 +155,9 @@ func TestConflicts(t *testing.T) {
 	x.Pop(1)
 	r, ok = x.Assert(0)
 	check("the conflict below", r, ok, lits{-5, -6}, api.StepCycle)
+	r.Step.Lits[0] = 77
+	r, ok = x.Assert(0)
+	check("the reason is the caller's own", r, ok, lits{-5, -6}, api.StepCycle)
 	x.Pop(1)
 	if _, ok := x.Assert(0); !ok {
 		t.Error("after Pop")
@@ -194,6 +200,84 @@ func TestFirstImplied(t *testing.T) {
 	}
 	if _, ok := x.Imply(); ok {
 		t.Error("nothing is left")
+	}
+}
+
+func TestImplyAgain(t *testing.T) {
+	p := example()
+	p.Atoms = []api.Atom{eq(2, 3), eq(4, 5), is(4), is(5), eq(4, 0), le(1, 2, 0)}
+	x, _ := theory(t, p)
+	none := func(what string) {
+		t.Helper()
+		for range 2 {
+			if r, ok := x.Imply(); ok || r.Clause != nil {
+				t.Error(what, r)
+			}
+		}
+	}
+	one := func(what string, want ...api.Lit) {
+		t.Helper()
+		for range 2 {
+			if r, ok := x.Imply(); !ok || !slices.Equal(r.Clause, want) {
+				t.Error(what, r, ok)
+			}
+		}
+	}
+	none("at first")
+	x.Push()
+	assert(t, x, 6)
+	none("after a difference")
+	assert(t, x, 1)
+	one("after an equality", -1, 2)
+	x.Push()
+	assert(t, x, 2)
+	none("after what was implied")
+	x.Pop(1)
+	one("after Pop", -1, 2)
+	assert(t, x, 2)
+	none("after what was implied")
+	assert(t, x, 3)
+	one("after a truth", -3, 5)
+	x.Pop(1)
+	none("at the end")
+	x.Push()
+	assert(t, x, -3, -4)
+	one("after two falsehoods", 2, 3, 4)
+	x.Pop(1)
+	assert(t, x, -1)
+	none("after an inequality")
+}
+
+func TestOwnMemory(t *testing.T) {
+	p := example()
+	p.Vertices = append(p.Vertices, api.Vertex{Fun: 2, Args: []int{3}, Sort: 2, Var: -1})
+	x, _ := theory(t, p)
+	p.Vertices[4].Args[0], p.Vertices[5].Args[0], p.Vertices[2].Var, p.Vertices[2].Off, p.Vertices[3].Sort = 3, 0, 0, 77, 2
+	p.Atoms[0] = le(0, 1, 7)
+	assert(t, x, -1, 2, 3)
+	if f, _, s := x.Final(); f != api.FinalSplit || s.Step.A != 2 || s.Step.B != 3 {
+		t.Error("vertices and atoms are the theory's own", f, s)
+	}
+	x, _ = theory(t, example())
+	assert(t, x, 1, 2, 3)
+	x.Final()
+	full, _ := x.Full()
+	full.Vars[1].High, full.Class[2] = 99, 99
+	if again, _ := x.Full(); again.Vars[1].High == 99 || again.Class[2] == 99 {
+		t.Error("Full gives out a copy")
+	}
+}
+
+func TestPairsWithoutClauses(t *testing.T) {
+	// x and y are one without clauses that say so of their integers; that f(y) and f(z) agree is the pair to look at.
+	p := example()
+	p.Vertices = append(p.Vertices, api.Vertex{Fun: 3, Sort: 1, Var: 3}, api.Vertex{Fun: 2, Args: []int{6}, Sort: 2, Var: -1})
+	p.Vars = 4
+	p.Atoms = []api.Atom{eq(3, 2), eq(5, 7)}
+	x, calls := theory(t, p)
+	assert(t, x, 1, -2)
+	if f, _, s := x.Final(); f != api.FinalSplit || len(*calls) != 1 || s.Step.B != 6 {
+		t.Error("Final", f, s, *calls)
 	}
 }
 

@@ -230,6 +230,70 @@ func TestErrorsChangeNothing(t *testing.T) {
 	}
 }
 
+func TestAskingKeepsTheVerdict(t *testing.T) {
+	d := New(nil, 2)
+	say(t, d, start+"(assert p)(check-sat)")
+	if got := say(t, d, "(get-info :reason-unknown)(get-info :reason-unknown)"); got != "(:reason-unknown budget); (:reason-unknown budget)" {
+		t.Error(got)
+	}
+	d = begun(t)
+	say(t, d, "(assert (= x 3))(check-sat)")
+	if got := say(t, d, "(get-value (x))(get-value (x))(exit)"); got != "((x 3)); ((x 3)); success" {
+		t.Error(got)
+	}
+	if v, ok := d.Last(); !ok || v.Answer != api.AnswerSat {
+		t.Error("after exit", ok)
+	}
+	d = begun(t)
+	say(t, d, "(assert false)(check-sat)")
+	if got := say(t, d, "(get-proof)(get-proof)(set-info :a)(get-proof)"); got != "((clause)); ((clause)); success; ((clause))" {
+		t.Error(got)
+	}
+	d = begun(t)
+	say(t, d, "(check-sat)")
+	if a, b := say(t, d, "(get-model)"), say(t, d, "(get-model)"); a != b || strings.HasPrefix(a, "(error") {
+		t.Error(a, b)
+	}
+}
+
+func TestLastIsACopy(t *testing.T) {
+	d := begun(t)
+	say(t, d, "(assert (f x u))(assert (= u u))(check-sat)")
+	v, _ := d.Last()
+	v.World.Sizes[0].Size = 99
+	for i, f := range v.World.Funs {
+		v.World.Funs[i].Fun = 99
+		for k, row := range f.Rows {
+			for j := range row.Args {
+				row.Args[j].E = 99
+			}
+			f.Rows[k].Value.E = 99
+		}
+	}
+	if w, _ := d.Last(); !world.May(d.Stack().Book().Names, w.World) {
+		t.Error("the world is shared", w.World)
+	}
+	say(t, d, "(declare-fun g (U) U)(declare-const v U)(assert (or p (= x 4)))(assert (= u v))(assert (or (distinct (g u) (g v)) (distinct x x)))(check-sat)")
+	v, _ = d.Last()
+	for i, x := range v.Steps {
+		v.Steps[i].Kind = 99
+		for k := range x.Lits {
+			x.Lits[k] = 99
+		}
+		for k, l := range x.Links {
+			for j := range l.List {
+				l.List[j] = 99
+			}
+			x.Links[k].Kind = 99
+		}
+	}
+	w, _ := d.Last()
+	right, refutes, e := check.Check(d.Stack().Book().Store, d.Stack().Assertions(), w.Steps)
+	if w.Answer != api.AnswerUnsat || right != len(w.Steps) || !refutes || e != api.OK {
+		t.Error("the steps are shared", w, right)
+	}
+}
+
 func TestGetValueLeavesNoTerms(t *testing.T) {
 	d := begun(t)
 	say(t, d, "(assert (= x 3))(check-sat)")

@@ -158,6 +158,25 @@ func TestEqualFromTheStart(t *testing.T) {
 	}
 }
 
+func TestOwnMemory(t *testing.T) {
+	v := []api.Vertex{{Fun: api.FunTrue}, {Fun: api.FunFalse}, {Fun: 0}, {Fun: 1}, {Fun: 2, Args: []int{2}}, {Fun: 2, Args: []int{3}}}
+	a := []api.Atom{{Kind: api.AtomEq, A: 2, B: 3}, {Kind: api.AtomEq, A: 4, B: 5}}
+	e, _ := New(v, a)
+	right, ok := slices.Clone(v), slices.Clone(a)
+	right[4].Args, right[5].Args = []int{2}, []int{3}
+	v[4].Args[0], v[5].Args[0] = 0, 1
+	v[4].Fun, a[0] = 7, api.Atom{Kind: api.AtomTrue, A: 2}
+	e.Assert(-2)
+	l, err := e.Assert(1)
+	if got, f := links.Check(right, ok, l); err != api.ErrConflict || f != api.OK || !slices.Equal(got, lits{1, -2}) {
+		t.Error("vertices and atoms are the closure's own", l, err, f)
+	}
+	l[0] = api.Link{}
+	if again, _ := e.Assert(1); again[0].Kind == 0 {
+		t.Error("links are the caller's own")
+	}
+}
+
 // plain is the classes, found in the plainest way.
 func plain(v []api.Vertex, a []api.Atom, asserted lits) ([]int, bool) {
 	class := make([]int, len(v))

@@ -52,6 +52,15 @@ func TestExample(t *testing.T) {
 	if c, ok := n.Implies(1); ok || c != nil {
 		t.Error("Implies in a conflict")
 	}
+	n = net(t, 3, le(1, 0, -5), le(2, 2, -1))
+	n.Assert(1)
+	n.Push()
+	if n.Assert(2); n.Value(1) != (api.Int{}) {
+		t.Error("Value in a conflict", n.Value(1))
+	}
+	if n.Pop(1); digits.Write(n.Value(1)) != "-5" {
+		t.Error("Value after a conflict", n.Value(1))
+	}
 }
 
 func TestErrors(t *testing.T) {
@@ -290,6 +299,61 @@ func compare(t *testing.T, r *rand.Rand, n *Net, vars int, a []api.Atom, asserte
 		}
 	}
 	return ok
+}
+
+// TestGreatNets compares conflicts and values of greater nets with the shortest ways between all variables.
+func TestGreatNets(t *testing.T) {
+	r := rand.New(rand.NewSource(30))
+	const vars, far = 25, int64(1) << 40
+	conflicts := 0
+	for range 40 {
+		var a []api.Atom
+		for range 160 {
+			a = append(a, le(r.Intn(vars), r.Intn(vars), r.Int63n(40)-6))
+		}
+		n := net(t, vars, a...)
+		var d [vars][vars]int64
+		for x := range vars {
+			for y := range vars {
+				if x != y {
+					d[x][y] = far
+				}
+			}
+		}
+		for i := range a {
+			l := api.Lit(i + 1)
+			edge, _ := cycles.Of(a, l)
+			conflict := d[edge.Y][edge.X]+edge.C < 0 || edge.X == edge.Y && edge.C < 0
+			n.Push()
+			c, e := n.Assert(l)
+			if conflict != (e == api.ErrConflict) {
+				t.Fatal("conflict", conflict, e)
+			}
+			if conflict {
+				conflicts++
+				if _, ok := cycles.Check(a, c); ok != api.OK {
+					t.Fatal("certificate", c, ok)
+				}
+				n.Pop(1)
+				continue
+			}
+			for x := range vars {
+				for y := range vars {
+					d[x][y] = min(d[x][y], d[x][edge.X]+edge.C+d[edge.Y][y])
+				}
+			}
+			for x := range vars {
+				for y := range vars {
+					if v := digits.Minus(n.Value(x), n.Value(y)); d[x][y] < far/2 && digits.Less(digits.Of(d[x][y]), v) {
+						t.Fatal("values", x, y, v, d[x][y])
+					}
+				}
+			}
+		}
+	}
+	if conflicts < 100 {
+		t.Error("few conflicts", conflicts)
+	}
 }
 
 func TestOwnMemory(t *testing.T) {

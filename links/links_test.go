@@ -42,7 +42,7 @@ func TestCorrect(t *testing.T) {
 		{[]api.Link{given(1), against(-1, 0)}, lits{1, -1}},
 		{[]api.Link{given(3), given(-3), turn(0), then(2, 1), clashes(3)}, lits{3, -3}},
 		{[]api.Link{apply(8, 9), against(-6, 0)}, lits{-6}},
-		{[]api.Link{same(2), against(-9, 0)}, lits{-9}},
+		{[]api.Link{same(2), against(-9, 0)}, lits{-9}}, {[]api.Link{same(0), same(13), same(2), against(-9, 2)}, lits{-9}},
 		{[]api.Link{given(1), turn(0), apply(6, 7, 0, 1), given(1), given(-3), against(-7, 2)}, lits{1, -3, -7}},
 		{[]api.Link{given(1), turn(0), then(0, 1), then(2, 0), against(-1, 3)}, lits{1, -1}},
 	} {
@@ -58,7 +58,7 @@ func TestIncorrect(t *testing.T) {
 		{given(-1), against(-1, 0)}, {given(4), given(1), against(-1, 1)}, {given(5), given(1), against(-1, 1)}, {given(0), given(1), against(-1, 1)}, {given(10), given(1), against(-1, 1)}, {given(-10), given(1), against(-1, 1)}, {given(math.MinInt), given(1), against(-1, 1)}, {given(1), against(-3, 0)}, {given(1), against(0, 0)}, {given(1), against(math.MinInt, 0)}, {given(1), against(-10, 0)},
 		{given(1), against(-1, 0), against(-1, 0)}, {given(1), clashes(0), against(-1, 0)}, {given(1), against(-1, 0), given(1)}, {given(1), against(-1, 1)}, {given(1), against(-1, -1)}, {given(1), given(1), clashes(0)}, {given(1), {}, against(-1, 0)}, {given(1), {Kind: 8}, against(-1, 0)}, {given(1), {}},
 		{same(-1), given(1), against(-1, 1)}, {same(14), given(1), against(-1, 1)}, {given(1), turn(1), against(-1, 0)}, {given(1), turn(-1), against(-1, 0)}, {given(1), turn(2), against(-1, 0)}, {given(1), then(0, 0), against(-1, 0)}, {given(1), then(0, 1), against(-1, 0)}, {given(1), then(2, 0), against(-1, 0)},
-		{given(1), apply(4, 5), against(-2, 1)}, {given(1), apply(4, 5, 0, 0), against(-2, 1)}, {given(1), apply(11, 12, 0), against(-8, 1)}, {given(1), apply(4, 13, 0), against(-2, 1)}, {given(1), apply(4, 6, 0), against(-2, 1)}, {given(1), apply(4, 99, 0), against(-2, 1)}, {given(1), apply(-1, 5, 0), against(-2, 1)}, {given(1), apply(6, 7, 0, 0), against(-7, 1)}, {given(1), apply(8, 9, 0), against(-6, 1)}, {apply(0, 0), given(1), against(-1, 1)},
+		{given(1), apply(4, 5), against(-2, 1)}, {given(1), apply(4, 5, 0, 0), against(-2, 1)}, {given(1), apply(11, 12, 0), against(-8, 1)}, {given(1), apply(4, 13, 0), against(-2, 1)}, {given(1), apply(4, 6, 0), against(-2, 1)}, {given(1), apply(4, 99, 0), against(-2, 1)}, {given(1), apply(-1, 5, 0), against(-2, 1)}, {given(1), apply(6, 7, 0, 0), against(-7, 1)}, {same(2), apply(4, 10, 0), against(-9, 0)}, {given(1), apply(8, 9, 0), against(-6, 1)}, {apply(0, 0), given(1), against(-1, 1)},
 		{given(3), given(-3), then(0, 1), clashes(2)}, {given(3), given(-3), turn(1), then(2, 0), clashes(3)}, {given(3), given(-3), turn(1), turn(0), then(3, 1), turn(4), clashes(5)},
 	} {
 		if got, e := Check(vertices(), atoms(), l); got != nil || e != api.ErrForm {
@@ -121,7 +121,10 @@ func TestMay(t *testing.T) {
 	if !May(v, atoms()) {
 		t.Error("MaxVertices vertices")
 	}
-	v[3].Args = []int{3, api.MaxVertices - 1}
+	v[3].Args = []int{3, api.MaxVertices - 1, 0}
+	if !May(v, []api.Atom{{Kind: api.AtomEq}, {Kind: api.AtomTrue}, {Kind: api.AtomEq, A: api.MaxVertices - 1, B: 1}}) {
+		t.Error("atoms may be of any vertices")
+	}
 	if !May(v, nil) {
 		t.Error("arguments may be any vertices")
 	}

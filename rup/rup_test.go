@@ -86,6 +86,69 @@ func TestManyDerived(t *testing.T) {
 	}
 }
 
+func TestManyDerivedInAnyOrder(t *testing.T) {
+	var chain []lits
+	for i := range 7000 {
+		l := api.Lit(7000 - i)
+		if i%2 == 0 {
+			l = -l
+		}
+		last := api.Lit(7001 - i)
+		if i%2 == 1 {
+			last = -last
+		}
+		chain = append(chain, lits{-last, l})
+	}
+	l, conflict, e := Units(chain, lits{7001})
+	if len(l) != 7001 || conflict || e != api.OK {
+		t.Fatal("a long chain", len(l), conflict, e)
+	}
+	for i, x := range l {
+		if max(x, -x) != api.Lit(i+1) || (x > 0) != (i%2 == 0) {
+			t.Fatal("order", i, x)
+		}
+	}
+}
+
+func TestLongRows(t *testing.T) {
+	// Many clauses are tested on one base, so that what one test leaves behind would spoil the next.
+	r := rand.New(rand.NewSource(29))
+	followed := 0
+	for range 150 {
+		var l []lits
+		for range 45 {
+			l = append(l, append(some(r, 12, 2), some(r, 12, 3)...))
+			if len(l[len(l)-1]) < 2 {
+				l = l[:len(l)-1]
+			}
+		}
+		b := NewBase()
+		for _, c := range l {
+			b.Add(c)
+		}
+		for range 60 {
+			c := some(r, 12, 5)
+			negated := make(lits, len(c))
+			for j := range c {
+				negated[j] = -c[j]
+			}
+			_, want := slowUnits(l, negated)
+			got, e := b.Follows(c)
+			if got != want || e != api.OK {
+				t.Fatal("Follows", l, c, got, want)
+			}
+			if got && len(c) > 0 {
+				followed++
+				b.Add(c)
+				l = append(l, c)
+			}
+		}
+	}
+	if followed < 500 {
+		t.Error("few clauses follow", followed)
+	}
+}
+
 func TestErrors(t *testing.T) {
 	for _, bad := range []lits{{0}, {api.MaxAtom + 1}, {math.MinInt}, slices.Repeat(lits{1}, api.MaxClause+1)} {
 		if l, c, e := Units([]lits{{}, bad}, nil); l != nil || c || e != api.ErrArg {

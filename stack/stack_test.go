@@ -144,9 +144,9 @@ func TestDefineFun(t *testing.T) {
 
 func TestMacrosAreCopies(t *testing.T) {
 	s := started(t)
-	params, body := []string{"n"}, read(t, "(+ n 1)")
+	params, body := []string{"n"}, read(t, "(+ (- n 1) 2)")
 	s.DefineFun("d", params, trees(t, "Int"), read(t, "Int"), body)
-	params[0], body.Kids[2].Tok.Text, body.Kids[0].Tok.Text = "m", "7", "-"
+	params[0], body.Kids[2].Tok.Text, body.Kids[0].Tok.Text, body.Kids[1].Kids[2].Tok.Text = "m", "7", "-", "9"
 	s.Assert(read(t, "(= x (d 1))"))
 	if got := text(t, s); got != "U p x f d (= x 2)" {
 		t.Error("a macro that was overwritten", got)
