@@ -285,6 +285,26 @@ func TestSplitsRemain(t *testing.T) {
 	}
 }
 
+func TestStepsOfReasonsAreCopies(t *testing.T) {
+	links := []api.Link{{Kind: api.LinkApply, A: 1, List: []int{5, 6}}, {Kind: api.LinkClash, I: 3}}
+	lits := lits{-1}
+	theory := &odd{assert: func() (api.Reason, bool) {
+		return api.Reason{Clause: lits, Step: api.Step{Kind: api.StepLinks, Links: links}}, false
+	}}
+	s := solver(t, 1, []api.Lit{1})
+	check := func(o api.Outcome) {
+		t.Helper()
+		if o.Answer != api.AnswerUnsat || o.Steps[0].Links[0].Kind != api.LinkApply || o.Steps[0].Links[0].List[1] != 6 || o.Steps[0].Links[1].I != 3 {
+			t.Error("the steps", o)
+		}
+	}
+	o := solve(t, s, nil, theory, nil, 1000)
+	check(o)
+	o.Steps[0].Links[0].List[1], o.Steps[0].Links[1].I, o.Steps[0].Links[0].Kind = 77, 77, 0
+	links[0].List[1], links[1].I, links[0].Kind = 88, 88, 0
+	check(solve(t, s, nil, theory, nil, 1000))
+}
+
 func TestStepsAreCopies(t *testing.T) {
 	atoms, l := pigeons(3)
 	s := solver(t, atoms, l...)
