@@ -12,37 +12,50 @@ type node struct {
 	boolArgs bool
 }
 
-// encoder creates a part's clauses, and is its literal.
-type encoder func(b *Board, n node) api.Lit
+// connective is how the parts of an operator are encoded: what their literal is, and the clauses that define it.
+type connective struct {
+	literal func(b *Board, n node) api.Lit
+	define  func(b *Board, n node, l api.Lit)
+}
 
-// encoders are the encoders of the parts of sort Bool.
-func encoders() map[api.Op]encoder {
-	return map[api.Op]encoder{
-		api.OpTrue:  func(*Board, node) api.Lit { return 1 },
-		api.OpFalse: func(*Board, node) api.Lit { return -1 },
-		api.OpNot:   func(b *Board, n node) api.Lit { return b.withVertex(n, -b.lits[n.Args[0]]) },
-		api.OpApp:   (*Board).own,
-		api.OpLe:    (*Board).atMost,
-		api.OpEq:    (*Board).equality,
-		api.OpAnd:   (*Board).and,
-		api.OpOr:    (*Board).or,
-		api.OpIte:   (*Board).choice,
+// connectives are the encodings of the parts of sort Bool.
+func connectives() map[api.Op]connective {
+	return map[api.Op]connective{
+		api.OpTrue:  {(*Board).yes, (*Board).nothing},
+		api.OpFalse: {(*Board).no, (*Board).nothing},
+		api.OpApp:   {(*Board).own, (*Board).nothing},
+		api.OpNot:   {(*Board).negation, (*Board).tie},
+		api.OpLe:    {(*Board).atMost, (*Board).tie},
+		api.OpEq:    {(*Board).equality, (*Board).agree},
+		api.OpAnd:   {(*Board).own, (*Board).and},
+		api.OpOr:    {(*Board).own, (*Board).or},
+		api.OpIte:   {(*Board).own, (*Board).choose},
 	}
 }
 
 // part encodes one part of the assertions.
-func (b *Board) part(encoders map[api.Op]encoder, s *terms.Store, t api.Term, made api.Node) {
+func (b *Board) part(connectives map[api.Op]connective, s *terms.Store, t api.Term, made api.Node) {
 	n := node{Node: made, term: t}
 	if len(made.Args) > 0 {
 		last, _ := s.Node(made.Args[len(made.Args)-1])
 		n.boolArgs = last.Sort == api.Bool
 	}
 	if n.Sort == api.Bool {
-		b.lits[t] = encoders[n.Op](b, n)
+		c := connectives[n.Op]
+		b.lits[t] = c.literal(b, n)
+		c.define(b, n, b.lits[t])
 	} else if n.Op == api.OpIte {
 		b.chosen(n)
 	}
 }
+
+func (b *Board) yes(node) api.Lit { return 1 }
+
+func (b *Board) no(node) api.Lit { return -1 }
+
+func (b *Board) nothing(node, api.Lit) {}
+
+func (b *Board) negation(n node) api.Lit { return -b.lits[n.Args[0]] }
 
 // own is the literal of a part's own atom.
 func (b *Board) own(n node) api.Lit {
@@ -52,14 +65,14 @@ func (b *Board) own(n node) api.Lit {
 	return b.atom(api.Atom{Kind: api.AtomName, A: int(n.term)})
 }
 
-// withVertex ties a literal to the part's vertex, if there is one.
-func (b *Board) withVertex(n node, l api.Lit) api.Lit {
-	if _, e := b.frame.Vertex(n.term); e == api.OK {
-		m := b.own(n)
-		b.clause(-m, l)
-		b.clause(m, -l)
+// tie makes it that a literal and the part's vertex are true together, if there is a vertex.
+func (b *Board) tie(n node, l api.Lit) {
+	if _, e := b.frame.Vertex(n.term); e != api.OK {
+		return
 	}
-	return l
+	m := b.own(n)
+	b.clause(-m, l)
+	b.clause(m, -l)
 }
 
 func (b *Board) vertex(t api.Term) int {
@@ -70,51 +83,54 @@ func (b *Board) vertex(t api.Term) int {
 func (b *Board) atMost(n node) api.Lit {
 	x, _, _ := b.frame.Space().Of(n.Args[0])
 	y, _, _ := b.frame.Space().Of(n.Args[1])
-	return b.withVertex(n, b.atom(api.Atom{Kind: api.AtomLe, A: x, B: y, C: n.Num}))
+	return b.atom(api.Atom{Kind: api.AtomLe, A: x, B: y, C: n.Num})
 }
 
 func (b *Board) equality(n node) api.Lit {
-	if !n.boolArgs {
-		return b.withVertex(n, b.equal(b.vertex(n.Args[0]), b.vertex(n.Args[1])))
+	if n.boolArgs {
+		return b.own(n)
 	}
-	l, x, y := b.own(n), b.lits[n.Args[0]], b.lits[n.Args[1]]
+	return b.equal(b.vertex(n.Args[0]), b.vertex(n.Args[1]))
+}
+
+// agree defines an Eq by the literals of its arguments if they are of sort Bool; any other Eq got its clauses with its atom, and is only tied to its vertex.
+func (b *Board) agree(n node, l api.Lit) {
+	if !n.boolArgs {
+		b.tie(n, l)
+		return
+	}
+	x, y := b.lits[n.Args[0]], b.lits[n.Args[1]]
 	b.clause(-l, -x, y)
 	b.clause(-l, x, -y)
 	b.clause(l, x, y)
 	b.clause(l, -x, -y)
-	return l
 }
 
-func (b *Board) and(n node) api.Lit {
-	l := b.own(n)
+func (b *Board) and(n node, l api.Lit) {
 	all := []api.Lit{l}
 	for _, a := range n.Args {
 		b.clause(-l, b.lits[a])
 		all = append(all, -b.lits[a])
 	}
 	b.clause(all...)
-	return l
 }
 
-func (b *Board) or(n node) api.Lit {
-	l := b.own(n)
+func (b *Board) or(n node, l api.Lit) {
 	all := []api.Lit{-l}
 	for _, a := range n.Args {
 		b.clause(l, -b.lits[a])
 		all = append(all, b.lits[a])
 	}
 	b.clause(all...)
-	return l
 }
 
-// choice is the literal of an Ite of sort Bool.
-func (b *Board) choice(n node) api.Lit {
-	l, c, x, y := b.own(n), b.lits[n.Args[0]], b.lits[n.Args[1]], b.lits[n.Args[2]]
+// choose defines an Ite of sort Bool.
+func (b *Board) choose(n node, l api.Lit) {
+	c, x, y := b.lits[n.Args[0]], b.lits[n.Args[1]], b.lits[n.Args[2]]
 	b.clause(-l, -c, x)
 	b.clause(-l, c, y)
 	b.clause(l, -c, -x)
 	b.clause(l, c, -y)
-	return l
 }
 
 // chosen says of an Ite of another sort which of the two it is.

@@ -85,6 +85,29 @@ func TestEncoding(t *testing.T) {
 	}
 }
 
+func TestConnectives(t *testing.T) {
+	table := connectives()
+	for _, op := range []api.Op{api.OpTrue, api.OpFalse, api.OpApp, api.OpNot, api.OpLe, api.OpEq, api.OpAnd, api.OpOr, api.OpIte} {
+		if c := table[op]; c.literal == nil || c.define == nil {
+			t.Error("an operator without its functions", op)
+		}
+	}
+	if len(table) != 9 {
+		t.Error("operators that no part of sort Bool has", len(table))
+	}
+	// The fields of the table are what a board encodes by.
+	b := book(t)
+	g, _ := New(b.Store)
+	p, q := term(t, b, "p"), term(t, b, "q")
+	and := term(t, b, "(and p q)")
+	g.part(table, b.Store, p, api.Node{Op: api.OpApp})
+	g.part(table, b.Store, q, api.Node{Op: api.OpApp})
+	g.part(map[api.Op]connective{api.OpAnd: {(*Board).yes, (*Board).or}}, b.Store, and, api.Node{Op: api.OpAnd, Args: []api.Term{p, q}})
+	if l, e := g.Lit(and); l != 1 || e != api.OK || !reflect.DeepEqual(g.Problem().Clauses, []lits{{1}, {1, -2}, {1, -3}, {-1, 2, 3}}) {
+		t.Error("another table", l, e, g.Problem().Clauses)
+	}
+}
+
 func TestSeveral(t *testing.T) {
 	b := book(t)
 	p, q := term(t, b, "p"), term(t, b, "q")
