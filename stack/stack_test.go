@@ -126,9 +126,9 @@ func TestDefineFun(t *testing.T) {
 		{"d", []string{"and"}, []string{"Int"}, "Int", "w", api.ErrName}, {"d", []string{"n", "n"}, []string{"Int", "Int"}, "Int", "w", api.ErrTwice}, {"d", []string{"n"}, []string{"Int"}, "Bool", "w", api.ErrNone}, {"d", []string{"n"}, []string{"Int"}, "Bool", "(d n)", api.ErrNone}, {"d", []string{"n"}, []string{"Int"}, "Bool", "(+ n 1)", api.ErrSort}, {"d", []string{"n"}, []string{"Int"}, "Int", "(+ n x)", api.ErrLinear},
 		{"d", []string{"n"}, []string{"Int"}, "Int", "(+ n 1)", api.OK}, {"d", []string{"n"}, []string{"Int"}, "Int", "(+ n 1)", api.ErrTwice}, {"c", nil, nil, "Bool", "(<= x (d 4))", api.OK}, {"e", []string{"p"}, []string{"Bool"}, "Bool", "(not p)", api.OK},
 	} {
-		before, length := text(t, s), s.Book().Store.Len()
+		before := text(t, s)
 		e := s.DefineFun(c.name, c.params, trees(t, c.args...), read(t, c.result), read(t, c.body))
-		if e != c.e || e != api.OK && (text(t, s) != before || s.Book().Store.Len() != length) {
+		if e != c.e || e != api.OK && text(t, s) != before {
 			t.Error("DefineFun", c.name, c.body, e, c.e)
 		}
 	}
@@ -156,8 +156,7 @@ func TestMacrosAreCopies(t *testing.T) {
 func TestAssertTerm(t *testing.T) {
 	s := started(t)
 	for in, want := range map[string]api.Errno{"x": api.ErrSort, "(+ x 77)": api.ErrSort, "w": api.ErrNone, "(f p)": api.ErrSort} {
-		length := s.Book().Store.Len()
-		if e := s.Assert(read(t, in)); e != want || len(s.Assertions()) != 0 || s.Book().Store.Len() != length {
+		if e := s.Assert(read(t, in)); e != want || len(s.Assertions()) != 0 {
 			t.Error("Assert", in, e)
 		}
 	}
@@ -176,6 +175,50 @@ func TestAssertTerm(t *testing.T) {
 	s.Assertions()[0] = 99
 	if s.Assertions()[0] == 99 {
 		t.Error("Assertions gives out a copy")
+	}
+}
+
+// TestTermsRemain looks at the terms that calls leave behind in the store, whose first three are always there.
+func TestTermsRemain(t *testing.T) {
+	define := func(params, sorts []string, result, body string) func(*Stack) api.Errno {
+		return func(s *Stack) api.Errno {
+			return s.DefineFun("d", params, trees(t, sorts...), read(t, result), read(t, body))
+		}
+	}
+	assert := func(x string) func(*Stack) api.Errno {
+		return func(s *Stack) api.Errno { return s.Assert(read(t, x)) }
+	}
+	term := func(x string) func(*Stack) api.Errno {
+		return func(s *Stack) api.Errno {
+			_, e := s.Term(read(t, x))
+			return e
+		}
+	}
+	for i, c := range []struct {
+		call  func(*Stack) api.Errno
+		e     api.Errno
+		terms int
+	}{
+		{assert("x"), api.ErrSort, 4}, {assert("(f 7)"), api.ErrSort, 5}, {assert("(+ x 77)"), api.ErrSort, 5}, {assert("(and p w)"), api.ErrNone, 4}, {assert("(w p)"), api.ErrNone, 3}, {assert("(not p)"), api.OK, 5},
+		{term("(not x)"), api.ErrSort, 4}, {term("(and p (f 1))"), api.ErrSort, 6}, {term("(- x 1 x x)"), api.ErrLinear, 4}, {term("(f (+ x 1))"), api.OK, 6},
+		{define(nil, nil, "U", "1"), api.ErrSort, 4}, {define([]string{"n"}, []string{"Int"}, "Bool", "(+ n 1)"), api.ErrSort, 5}, {define([]string{"n"}, []string{"Int"}, "Bool", "(<= n w)"), api.ErrNone, 4}, {define([]string{"n", "n"}, []string{"Int", "Int"}, "Bool", "true"), api.ErrTwice, 3}, {define([]string{"n"}, []string{"Int"}, "Bool", "(<= n x)"), api.OK, 6},
+	} {
+		s := started(t)
+		before := text(t, s)
+		if e := c.call(s); e != c.e || s.Book().Store.Len() != c.terms {
+			t.Error("call", i, e, s.Book().Store.Len())
+		} else if e != api.OK && text(t, s) != before {
+			t.Error("an error changed", i, text(t, s))
+		}
+	}
+	// What an error left behind is used again, under its number.
+	s := started(t)
+	s.Assert(read(t, "(and p (not p) x)"))
+	if v, e := s.Term(read(t, "(not p)")); v != 4 || e != api.OK {
+		t.Error("(not p)", v, e)
+	}
+	if v, e := s.Term(read(t, "(f x)")); v != 6 || e != api.OK {
+		t.Error("(f x)", v, e)
 	}
 }
 
