@@ -225,7 +225,7 @@ func TestTermsRemain(t *testing.T) {
 func TestScopes(t *testing.T) {
 	s := started(t)
 	s.Assert(read(t, "p"))
-	before, length := text(t, s), s.Book().Store.Len()
+	before := text(t, s)
 	if s.Push(2) != api.OK || s.Level() != 2 || s.Push(-1) != api.ErrArg || s.Push(199) != api.ErrScope || s.Push(math.MaxInt) != api.ErrScope || s.Push(math.MinInt) != api.ErrArg || s.Push(0) != api.OK || s.Level() != 2 {
 		t.Error("Push", s.Level())
 	}
@@ -241,26 +241,74 @@ func TestScopes(t *testing.T) {
 	}
 	s.Assert(read(t, "(= x 1 2 3)"))
 	s.DefineFun("d", nil, nil, read(t, "Int"), read(t, "7"))
-	if s.Pop(1) != api.OK || text(t, s) != before || s.Book().Store.Len() != length {
-		t.Error("what was there before", text(t, s), s.Book().Store.Len(), length)
+	if s.Pop(1) != api.OK || text(t, s) != before || len(s.Book().Macros) != 0 {
+		t.Error("what was there before", text(t, s))
 	}
 	if s.Push(200) != api.OK || s.Push(1) != api.ErrScope || s.Pop(200) != api.OK || s.Level() != 0 {
 		t.Error("MaxScopes")
 	}
 }
 
-func TestRoomAfterPop(t *testing.T) {
+// TestTermsRemainAfterPop: a closed scope takes its names and assertions along, but no term.
+func TestTermsRemainAfterPop(t *testing.T) {
+	term := func(s *Stack, x string) api.Term {
+		t.Helper()
+		v, e := s.Term(read(t, x))
+		if e != api.OK {
+			t.Fatal("Term", x, e)
+		}
+		return v
+	}
+	s := started(t)
+	p := term(s, "p")
+	s.Push(2)
+	s.DeclareFun("q", nil, read(t, "Bool"))
+	s.Assert(read(t, "(or q (not p))"))
+	s.Push(1)
+	s.DefineFun("d", []string{"n"}, trees(t, "Int"), read(t, "Int"), read(t, "(+ n 3)"))
+	s.Assert(read(t, "(= (f 7) (f (d x)))"))
+	length := s.Book().Store.Len()
+	var nodes []api.Node
+	for i := range length {
+		n, _ := s.Book().Store.Node(api.Term(i))
+		nodes = append(nodes, n)
+	}
+	not, seven := term(s, "(not p)"), term(s, "(f 7)")
+	for _, n := range []int{1, 0, 2} {
+		if s.Pop(n) != api.OK || s.Book().Store.Len() != length {
+			t.Error("Pop", n, s.Book().Store.Len(), length)
+		}
+	}
+	for i, want := range nodes {
+		if n, e := s.Book().Store.Node(api.Term(i)); e != api.OK || n.Op != want.Op || n.Fun != want.Fun || n.Num != want.Num || n.Sort != want.Sort || !slices.Equal(n.Args, want.Args) {
+			t.Error("a term is another one", i, n, want)
+		}
+	}
+	if _, e := s.Term(read(t, "q")); e != api.ErrNone {
+		t.Error("a name that is gone", e)
+	}
+	if v := term(s, "(= x 99)"); int(v) != s.Book().Store.Len()-1 || int(v) != length+1 {
+		t.Error("a new term's number", v, length)
+	}
+	if term(s, "(not p)") != not || term(s, "(f 7)") != seven || term(s, "p") != p {
+		t.Error("the same construction is the same term")
+	}
+}
+
+// TestFullAfterPop: a store stays full when a scope is closed; what it has can still be said.
+func TestFullAfterPop(t *testing.T) {
 	s := started(t)
 	s.Push(1)
+	s.Assert(read(t, "(not p)"))
 	for i := 0; s.Book().Store.Len() < api.MaxTerms; i++ {
 		s.Book().Store.App(2, 2, api.Zero, api.Term(i))
 	}
-	if e := s.Assert(read(t, "(= x 123456789)")); e != api.ErrFull {
-		t.Error("a full store", e)
-	}
 	s.Pop(1)
-	if e := s.Assert(read(t, "(= x 123456789)")); e != api.OK {
-		t.Error("a closed scope leaves no terms behind", e)
+	if e := s.Assert(read(t, "(= x 123456789)")); e != api.ErrFull || len(s.Assertions()) != 0 {
+		t.Error("a new term", e)
+	}
+	if e := s.Assert(read(t, "(not p)")); e != api.OK || len(s.Assertions()) != 1 {
+		t.Error("a term that is there", e)
 	}
 }
 

@@ -203,7 +203,7 @@ func TestOwnMemory(t *testing.T) {
 	}
 }
 
-func TestCopyAndCut(t *testing.T) {
+func TestCopy(t *testing.T) {
 	s, ok := New(), must(t)
 	p := ok(s.App(0, api.Bool))
 	y := s.Copy()
@@ -214,24 +214,13 @@ func TestCopyAndCut(t *testing.T) {
 	if n, _ := s.Node(q); n.Fun != 1 {
 		t.Error("the store", n)
 	}
-	before, and := s.Len(), ok(s.And(p, q))
-	ok(s.Or(p, q))
-	ok(s.App(5, 0, p, q))
-	s.Cut(before)
-	if s.Len() != before {
-		t.Error("Cut", s.Len())
-	}
+	and := ok(y.And(p, r))
 	if _, e := s.Node(and); e != api.ErrNone {
-		t.Error("a term that was cut", e)
+		t.Error("a term of the copy alone", e)
 	}
-	if ok(s.App(9, 0, q, p)) != and || ok(s.And(p, q)) != and+1 || ok(s.App(5, 0, p, q)) != and+2 || ok(s.And(p, q)) != and+1 || ok(s.Not(p)) != and+3 {
-		t.Error("after Cut")
+	if ok(s.Or(p, q)) != and || ok(s.And(p, q)) != and+1 || ok(y.And(p, r)) != and || y.Len() != int(and)+1 {
+		t.Error("the copy's lists", s.Len(), y.Len())
 	}
-	s.Cut(-1)
-	if s.Len() != 3 || ok(s.Num(0)) != api.Zero || ok(s.App(0, api.Bool)) != 3 {
-		t.Error("Cut of all")
-	}
-	(*Store)(nil).Cut(0)
 }
 
 func TestRebuilt(t *testing.T) {
